@@ -181,6 +181,41 @@ func TestP14_1PairsWithinControls(t *testing.T) {
 	}
 }
 
+// All brackets of the table are of class ON, and the classes are those of the code points, whatever is around them: so each one pairs with its Pair. What is mirrored only pairs with nothing.
+func TestP14_1EveryBracket(t *testing.T) {
+	pairs, mirrored := 0, 0
+	for code := rune(0); code <= 0x10FFFF; code++ {
+		p := props.Of(code)
+		if p.Pair != 0 && p.Bidi != api.BidiON {
+			t.Errorf("%X is a bracket of the class %d", code, p.Bidi)
+		}
+		other, want := p.Pair, "hhlhh"
+		switch {
+		case p.Opens:
+			pairs++
+		case p.Pair == 0 && p.Mirror != 0:
+			other, want = p.Mirror, "hhlll"
+			mirrored++
+		default:
+			continue
+		}
+		if got := tell(Resolve([]rune{0x5D0, code, 'a', other, '.'})); got != want {
+			t.Errorf("%X and %X: %s, not %s", code, other, got, want)
+		}
+		// Within an embedding, an override and an isolate.
+		for _, control := range []rune{0x202A, 0x202B, 0x202D, 0x202E, 0x2066, 0x2067, 0x2068} {
+			text := []rune{0x5D0, control, code, 'a', other, '.'}
+			if got := tell(Resolve(text)); got != "h"+want {
+				t.Errorf("%X behind %X: %s, not %s", code, control, got, "h"+want)
+			}
+			holds(t, text)
+		}
+	}
+	if pairs != 11 || mirrored == 0 {
+		t.Errorf("there are %d opening brackets and %d that are mirrored only", pairs, mirrored)
+	}
+}
+
 // There are pairs only as long as the stack of layer 9 holds the opening brackets.
 func TestP14_1Depth(t *testing.T) {
 	for _, n := range []int{1, 2, 62, 63, 64, 65, 200} {
